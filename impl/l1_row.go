@@ -43,7 +43,7 @@ type Row struct {
 
 // RowMade is the number of the n-th row that somebody makes.
 func RowMade(who int, n int) int {
-	if who < 1 || who > WhoMax || n < 1 || n > MadeMax {
+	if !isClient(who) || n < 1 || n > MadeMax {
 		return 0
 	}
 	return madeStep*who + n
@@ -67,6 +67,11 @@ func RowOk(r Row) bool {
 		return r.Depth == 0 && r.Text == ""
 	}
 	return r.Depth >= 1 && r.Depth <= depthMax && textOk(r.Text)
+}
+
+// isClient says whether a number is that of a client.
+func isClient(who int) bool {
+	return who >= 1 && who <= WhoMax
 }
 
 // textOk says whether a string is a text.
